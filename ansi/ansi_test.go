@@ -25,7 +25,7 @@ func TestPut(t *testing.T) {
 			t.Errorf("%v: %q", x.o, s)
 		}
 	}
-	if All(nil) != "" || All([]Op{{Kind: Text, Text: "a"}, {Kind: 99}, {Kind: Bell}}) != "a\a" {
+	if MostOfThem != 9999 || All(nil) != "" || All([]Op{{Kind: Text, Text: "a"}, {Kind: 99}, {Kind: Bell}}) != "a\a" {
 		t.Error("all")
 	}
 }
@@ -44,10 +44,12 @@ func TestTake(t *testing.T) {
 			t.Errorf("%q: %v %d %d", x.s, l, at, err)
 		}
 	}
-	for _, s := range []string{"\x00", "\x7f", "\x1b", "\x1b[", "\x1b[1", "\x1b[1C", "\x1b[0C", "\x1b[01C", "\x1b[02C", "\x1b[12345C", "\x1b[H", "\x1b[1H", "\x1b[;H", "\x1b[1;H", "\x1b[;1H", "\x1b[0;1H", "\x1b[1;0H", "\x1b[1;1", "\x1b[1;", "\x1b[1;1f", "\x1b[1;1;1H", "\x1b[J", "\x1b[1J", "\x1b[3J", "\x1b[22J", "\x1b[1K", "\x1b[2K", "\x1b[E", "\x1b[-1C", "\x1bC", "\x1b[ C", "\t", "\x1b[10000;1H", "\x1b[\x1b[C"} {
+	for _, s := range []string{"\x00", "\x7f", "\x1b", "\x1b[", "\x1b[1", "\x1b[1C", "\x1b[0C", "\x1b[01C", "\x1b[02C", "\x1b[12345C", "\x1b[H", "\x1b[1H", "\x1b[;H", "\x1b[1;H", "\x1b[;1H", "\x1b[0;1H", "\x1b[1;0H", "\x1b[1;1", "\x1b[1;", "\x1b[1;1f", "\x1b[1;1;1H", "\x1b[J", "\x1b[1J", "\x1b[3J", "\x1b[22J", "\x1b[1K", "\x1b[2K", "\x1b[E", "\x1b[-1C", "\x1bC", "\x1b[ C", "\t", "\x1b[10000;1H", "\x1b[\x1b[C", "\x1bxC", "\x00[C", "\x1b[1;1C"} {
 		for _, ahead := range []string{"", "ab", "a\x1b[C\r"} {
-			if l, at, err := Take(ahead + s + "z"); l != nil || at != len(ahead) || err != api.ErrForm {
-				t.Errorf("%q: %v %d %d", ahead+s, l, at, err)
+			for _, behind := range []string{"", "z"} {
+				if l, at, err := Take(ahead + s + behind); l != nil || at != len(ahead) || err != api.ErrForm {
+					t.Errorf("%q: %v %d %d", ahead+s+behind, l, at, err)
+				}
 			}
 		}
 	}

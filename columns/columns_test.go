@@ -42,6 +42,9 @@ func TestFit(t *testing.T) {
 	if p := Fit([]int{1, 2, 3}, 7); !same(p, Plan{2, []int{2, 3}}) {
 		t.Error(p)
 	}
+	if Gap != 2 {
+		t.Error("the gap")
+	}
 	if !same(Fit(nil, 80), Plan{}) || !same(Fit([]int{5, 9}, 3), Plan{2, []int{9}}) || !same(Fit([]int{0, 0}, -1), Plan{2, []int{0}}) || !same(Fit([]int{0, 0}, 2), Plan{1, []int{0, 0}}) || !same(Fit([]int{1, 2}, math.MinInt), Plan{2, []int{2}}) || !same(Fit([]int{1, 2}, math.MaxInt), Plan{1, []int{1, 2}}) {
 		t.Error("edges")
 	}

@@ -140,6 +140,9 @@ func TestDo(t *testing.T) {
 			t.Error(a, err)
 		}
 	}
+	if l, at, err := (Answer{From: 0, To: 3, Text: []rune("x")}).Do(x, []rune("abc")); string(l) != "x" || at != 1 || err != api.OK {
+		t.Error(string(l), at, err)
+	}
 	long := slices.Repeat([]rune{'a'}, api.MaxText)
 	if l, at, err := (Answer{From: 1, To: 1, Text: []rune("b")}).Do(x, long); l != nil || at != 0 || err != api.ErrFull {
 		t.Error(len(l), at, err)
@@ -155,7 +158,7 @@ func TestHint(t *testing.T) {
 	for _, want := range []struct {
 		line, lines, hint string
 		ok                bool
-	}{{"go", "x go gone goes", "ne", true}, {"go", "go", "", false}, {"", "go", "", false}, {"e\u0301", "\u00E9 e\u0301x", "x", true}, {"e", "e\u0301 ex", "x", true}, {"a", "- ab", "b", true}, {"a", "", "", false}} {
+	}{{"go", "x go gone goes", "ne", true}, {"go", "xyz gone", "ne", true}, {"go", "go", "", false}, {"", "go", "", false}, {"e\u0301", "\u00E9 e\u0301x", "x", true}, {"e", "e\u0301 ex", "x", true}, {"a", "- ab", "b", true}, {"a", "", "", false}} {
 		if h, ok := Hint(x, []rune(want.line), texts(want.lines)); string(h) != want.hint || ok != want.ok || !ok && h != nil {
 			t.Errorf("%q, %q: %q %v", want.line, want.lines, string(h), ok)
 		}

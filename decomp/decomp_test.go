@@ -39,7 +39,7 @@ func TestFull(t *testing.T) {
 	for i := range 20 {
 		chain = append(chain, api.Row{Kind: api.KindPair, From: 0x100 + i, To: 0x100 + i, A: 0x101 + i})
 	}
-	if l := Full(ucd.Build(chain), 0x100); !slices.Equal(l, []rune{0x100 + Deep}) {
+	if l := Full(ucd.Build(chain), 0x100); !slices.Equal(l, []rune{0x108}) {
 		t.Errorf("%x", l)
 	}
 	if l := Full(nil, 0xE9); !slices.Equal(l, []rune{0xE9}) {

@@ -37,6 +37,9 @@ func TestOf(t *testing.T) {
 			t.Errorf("%q, %q: %s %d, %d", want.from, want.to, tell(l), Cost(l), err)
 		}
 	}
+	if MaxCells != 1<<20 || Keep != 0 || Drop != 1 || Add != 2 {
+		t.Error("numbers")
+	}
 	a := slices.Repeat([]rune{'a'}, 1023)
 	if l, err := Of(x, a, a); tell(l) != "=1023"+string(a) || err != api.OK {
 		t.Error(err)

@@ -102,9 +102,9 @@ func TestKeys(t *testing.T) {
 		{"killing words", "p:ab,cd ^1 m:d m:d ^25", "ab,cd|", "-----"}, {"killing back", "p:ab,cd m:^127 m:^8 ^25", "ab,cd|", "----"}, {"killing both ways", "p:ab ^2 ^11 ^21 ^25", "ab|", "-----"}, {"killing nothing", "^11 ^21 m:d m:^8", "|", "BBBB"}, {"killing apart", "p:ab,cd m:^8 ^5 m:^8 ^25", "ab,|", "-----"},
 		{"killing, a count between", "p:ab,cd m:^8 m:1 m:^8 ^25", "ab,cd|", "-----"}, {"deleting is not killing", "p:abc ^21 x ^8 ^25", "abc|", "-----"},
 		{"a region", "p:abcd ^0 ^2 ^2 ^23 ^25", "ab[cd|", "------"}, {"a region ahead", "p:abcd ^1 ^0 ^6 ^23", "[|bcd", "-----"}, {"copying", "p:ab ^0 ^1 m:w ^25", "ab|ab[", "-----"}, {"no mark", "a ^23 m:w", "a|", "-BB"}, {"nothing between", "a ^0 ^23 m:w", "a[|", "--BB"}, {"a region is not joined", "p:abcd ^0 ^2 ^11 ^2 ^23 ^25", "ab[c|", "-------"},
-		{"exchanging", "p:abc ^0 ^1 ^24 ^24", "[abc|", "-----"}, {"exchanging without a mark", "a ^24 ^24", "a|", "--B"},
+		{"exchanging", "p:abc ^0 ^1 ^24 ^24", "[abc|", "-----"}, {"exchanging with the beginning", "^0 a ^24 ^24", "|a[", "----"}, {"exchanging without a mark", "a ^24 ^24", "a|", "--B"},
 		{"yanking nothing", "^25", "|", "B"}, {"turning the ring", "a ^21 b ^21 ^25 m:y m:y", "b|", "-------"}, {"turning once", "a ^21 b ^21 ^25 m:y", "a|", "------"}, {"turning what was not yanked", "a ^21 ^25 ^1 m:y", "|a", "----B"}, {"turning behind a count", "a ^21 b ^21 ^25 m:5 m:y", "a|", "-------"},
-		{"undoing", "a ^31", "|", "--"}, {"undoing nothing", "^31", "|", "B"}, {"undoing too much", "a ^4 m:5 ^31", "|", "-B-B"}, {"undoing behind the prefix", "a ^2 b ^24 ^21 ^24 u", "|", "-------"}, {"undoing by 0", "a m:0 ^31", "a|", "--B"}, {"undoing by minus", "a m:- ^31", "a|", "--B"}, {"undoing a kill", "p:ab ^2 ^11 ^31", "a|b", "----"},
+		{"undoing", "a ^31", "|", "--"}, {"the mark behind an undo", "p:abc ^0 ^1 x y ^31", "|abc[", "------"}, {"the mark within what is undone", "p:abc ^0 ^31", "[|", "---"}, {"typing behind a quote of a name", "a ^17 up b ^31", "a|", "--B--"}, {"undoing behind a search in the line", "x a b ^18 b ^6 ^31", "|", "-------"}, {"undoing nothing", "^31", "|", "B"}, {"undoing too much", "a ^4 m:5 ^31", "|", "-B-B"}, {"undoing behind the prefix", "a ^2 b ^24 ^21 ^24 u", "|", "-------"}, {"undoing by 0", "a m:0 ^31", "a|", "--B"}, {"undoing by minus", "a m:- ^31", "a|", "--B"}, {"undoing a kill", "p:ab ^2 ^11 ^31", "a|b", "----"},
 		{"pasting", "p:ab p:c ^31", "ab|", "---"}, {"pasting nothing", "p:", "|", "B"}, {"typing behind a paste", "a p:b c ^31 ^31", "a|", "-----"},
 		{"transposing", "a b ^20", "ba|", "---"}, {"transposing within", "p:abc ^2 ^2 ^20", "ba|c", "----"}, {"transposing one", "a ^20", "a|", "-B"}, {"transposing clusters", "a x:915 x:94d x:915 ^20", "\u0915\u094D\u0915a|", "-----"},
 		{"a quote", "^17 ^1", "\x01|", "--"}, {"a quote with Meta", "^17 m:a", "a|", "--"}, {"a quote of a name", "^17 up a", "a|", "-B-"}, {"a quote, many times", "m:3 ^17 ^9 a", "\t\t\ta|", "----"}, {"a quote by minus", "m:- ^17 a", "|", "--B"}, {"a quote of a paste", "a ^17 p:b ^31", "|", "--B-"},
@@ -149,13 +149,16 @@ func TestCountsAndRuns(t *testing.T) {
 		keys  string
 		count Count
 	}{
-		{"m:5", Count{true, false, true, 5}}, {"m:-", Count{true, true, false, 0}}, {"m:- m:-", Count{true, false, false, 0}}, {"m:1 m:2 m:3 m:4 m:5", Count{true, false, true, api.MaxCount}}, {"m:0", Count{true, false, true, 0}}, {"m:2 ^24", Count{true, false, true, 2}}, {"m:2 ^17", Count{true, false, true, 2}}, {"m:2 ^17 a", Count{}}, {"m:2 odd", Count{}},
+		{"m:5", Count{true, false, true, 5}}, {"m:9 m:0", Count{true, false, true, 90}}, {"m:-", Count{true, true, false, 0}}, {"m:- m:-", Count{true, false, false, 0}}, {"m:1 m:2 m:3 m:4 m:5", Count{true, false, true, api.MaxCount}}, {"m:0", Count{true, false, true, 0}}, {"m:2 ^24", Count{true, false, true, 2}}, {"m:2 ^17", Count{true, false, true, 2}}, {"m:2 ^17 a", Count{}}, {"m:2 odd", Count{}},
 	} {
 		e := New(tables, bind.Map{})
 		run(e, keys(x.keys))
 		if c := e.Now().Count; c != x.count {
 			t.Errorf("%s: %v", x.keys, c)
 		}
+	}
+	if Run != 20 || Other != 0 || Typed != 1 || Killed != 2 || Yanked != 3 {
+		t.Error("numbers")
 	}
 	e := New(tables, bind.Map{})
 	run(e, keys(strings.Repeat("a ", 2*Run+1)))

@@ -44,6 +44,9 @@ func TestParse(t *testing.T) {
 			t.Errorf("%q: %q %d", want.s, tell(p.Parts()), err)
 		}
 	}
+	if MaxParts != 1000 {
+		t.Error("the limit")
+	}
 	p, err := Parse(x, slices.Repeat([]rune{'?', 'a'}, MaxParts/2))
 	if len(p.Parts()) != MaxParts || err != api.OK {
 		t.Error(len(p.Parts()), err)

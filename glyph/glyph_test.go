@@ -19,7 +19,7 @@ func TestWidth(t *testing.T) {
 		c     []rune
 		width int
 	}{
-		{nil, 1}, {[]rune{0x61, 0x301}, 1}, {[]rune{0x4E00}, 2}, {[]rune{0x1F1E6, 0x1F1E7}, 2}, {[]rune{0x1F1E6}, 1}, {[]rune{0x2764}, 1}, {[]rune{0x2764, 0xFE0F}, 2}, {[]rune{0x2764, 0x301, 0xFE0F}, 2}, {[]rune{0x61, 0xFE0F}, 1}, {[]rune{0xFE0F}, 1},
+		{nil, 1}, {[]rune{0x61, 0x301}, 1}, {[]rune{0x4E00}, 2}, {[]rune{0x1F1E6, 0x1F1E7}, 2}, {[]rune{0x1F1E6}, 1}, {[]rune{0x1F1E6, 0x301}, 1}, {[]rune{0x2764}, 1}, {[]rune{0x2764, 0xFE0F}, 2}, {[]rune{0x2764, 0x301, 0xFE0F}, 2}, {[]rune{0x61, 0xFE0F}, 1}, {[]rune{0xFE0F}, 1},
 		{[]rune{0x61, 0x200D, 0x4E00}, 2}, {[]rune{0x1F468, 0x200D, 0x1F468}, 2}, {[]rune{0x61, 0x1F1E6, 0x1F1E7}, 1}, {[]rune{-1, math.MaxInt32}, 1}, {[]rune{0xAC00}, 2}, {[]rune{0x1100, 0x1161}, 2},
 	} {
 		if w := Width(x, want.c); w != want.width {
@@ -39,7 +39,7 @@ func TestOf(t *testing.T) {
 		{nil, nil}, {[]rune{1}, []Glyph{one("^"), one("A")}}, {[]rune{0}, []Glyph{one("^"), one("@")}}, {[]rune{0x1F}, []Glyph{one("^"), one("_")}}, {[]rune{0x7F}, []Glyph{one("^"), one("?")}}, {[]rune{0x85}, []Glyph{one("\uFFFD")}},
 		{[]rune{0xAD}, []Glyph{one("\uFFFD")}}, {[]rune{0xD, 0xA}, []Glyph{one("^"), one("M"), one("^"), one("J")}}, {[]rune{0x301}, []Glyph{one("\u25CC\u0301")}}, {[]rune{0x600}, []Glyph{one("\u0600\u25CC")}}, {[]rune{0x903}, []Glyph{one("\u25CC\u0903")}}, {[]rune{0x200D}, []Glyph{one("\u25CC\u200D")}},
 		{[]rune{0x65, 0x301}, []Glyph{one("e\u0301")}}, {[]rune{0x4E00}, []Glyph{{"\u4E00", 2}}}, {[]rune{0xD800}, []Glyph{one("\uFFFD")}}, {[]rune{-1}, []Glyph{one("\uFFFD")}}, {[]rune{0x600, 0x61}, []Glyph{one("\u0600a")}}, {[]rune{0x1F1E6, 0x1F1E7}, []Glyph{{"\U0001F1E6\U0001F1E7", 2}}},
-		{[]rune{0xA, 0x61, -5}, []Glyph{one("^"), one("J"), one("\uFFFD"), one("\uFFFD")}}, {[]rune{0xFE0F}, []Glyph{one("\u25CC\uFE0F")}},
+		{[]rune{0xA, 0x61, -5}, []Glyph{one("^"), one("J"), one("\uFFFD"), one("\uFFFD")}}, {[]rune{0xFE0F}, []Glyph{one("\u25CC\uFE0F")}}, {[]rune{0xA, 0x20}, []Glyph{one("^"), one("J"), one("\uFFFD")}},
 	} {
 		if l := Of(x, want.c); !slices.Equal(l, want.l) {
 			t.Errorf("%x: %v", want.c, l)

@@ -153,7 +153,7 @@ func TestNil(t *testing.T) {
 	}
 	g.Erase(0, 0)
 	g.Clear()
-	if !Same(nil, nil) || Same(nil, New(1, 2)) || Same(New(1, 2), nil) || Same(New(1, 4), New(2, 2)) || !Same(New(2, 2), New(2, 2)) {
+	if !Same(nil, nil) || Same(nil, New(1, 2)) || Same(New(1, 2), nil) || Same(New(1, 4), New(2, 2)) || Same(New(1, 4), New(1, 5)) || Same(New(1, 4), New(2, 4)) || Same(New(2, 4), New(1, 4)) || !Same(New(2, 2), New(2, 2)) {
 		t.Error("what is the same")
 	}
 	g = New(1, api.MinCols)

@@ -65,6 +65,9 @@ func TestExpand(t *testing.T) {
 
 // Promise 46.2: the limit counts keys, and calls.
 func TestExpandLimit(t *testing.T) {
+	if MaxKeys != 1000 || MaxNames != 100 || MaxExpand != 20000 {
+		t.Error("the limits")
+	}
 	for _, x := range []struct {
 		calls, keys int // of b, which has keys
 		more        string

@@ -131,6 +131,9 @@ func TestAny(t *testing.T) {
 		}
 	}
 	Choose(glyphs([]int{0, -5, 1000, 7}), 2, 5)
+	if MinCols != 4 {
+		t.Error("the limit")
+	}
 	if x, ok := Choose(nil, 0, 4); x != (Shown{}) || !ok {
 		t.Error(x, ok)
 	}

@@ -113,13 +113,14 @@ func TestGo(t *testing.T) {
 // Promise 20.3.
 func TestExpand(t *testing.T) {
 	p := of("a", "b")
+	many := of("1", "2", "3", "4", "5", "6", "7", "8", "nine", "x12", "z", "twelve")
 	q := of("make all", "git log", "make it", "-x", "go !", "12")
 	for _, x := range []struct {
 		p    Past
 		s, e string
 		err  api.Errno
 	}{
-		{p, "x !!", "x b", 0}, {p, "!1", "a", 0}, {p, "!-2", "a", 0}, {p, "", "", 0}, {p, "x", "x", 0}, {p, `\!!`, "!!", 0}, {p, `\!!x`, "", api.ErrNone}, {p, `\!\!a`, "!!a", 0}, {p, `\x\`, `\x\`, 0}, {p, "!", "!", 0}, {p, "! !\t", "! !\t", 0}, {p, "!!!", "b!", 0},
+		{p, "x !!", "x b", 0}, {p, `a\!`, "a!", 0}, {many, "!9", "nine", 0}, {many, "!12", "twelve", 0}, {many, "!x12", "x12", 0}, {many, "!-9x", "4x", 0}, {many, "!-10", "3", 0}, {p, "!1", "a", 0}, {p, "!-2", "a", 0}, {p, "", "", 0}, {p, "x", "x", 0}, {p, `\!!`, "!!", 0}, {p, `\!!x`, "", api.ErrNone}, {p, `\!\!a`, "!!a", 0}, {p, `\x\`, `\x\`, 0}, {p, "!", "!", 0}, {p, "! !\t", "! !\t", 0}, {p, "!!!", "b!", 0},
 		{p, "!0", "", api.ErrNone}, {p, "!3", "", api.ErrNone}, {p, "!-0", "", api.ErrNone}, {p, "!-3", "", api.ErrNone}, {p, "!00012", "a2", 0}, {p, "!00011", "a1", 0}, {p, "!0001x", "ax", 0}, {p, "!00021", "b1", 0}, {p, "!-00021", "a1", 0}, {p, "!-00029", "a9", 0}, {p, "!00029", "b9", 0}, {p, "!0002!1", "ba", 0},
 		{p, "!c", "", api.ErrNone}, {p, "!?c?", "", api.ErrNone}, {of(), "!!", "", api.ErrNone}, {of(), "!?", "", api.ErrNone}, {p, "!?", "b", 0}, {p, "!??", "b", 0}, {p, "!?a", "a", 0}, {p, "!?a?b", "ab", 0},
 		{q, "!ma", "make it", 0}, {q, "!make all", "make it all", 0}, {q, "!git!!", "git log12", 0}, {q, "!?l", "git log", 0}, {q, "!?e a?", "make all", 0}, {q, "!-x", "-x", 0}, {q, "!-", "-x", 0}, {q, "!-6", "make all", 0}, {q, "!?o !?", "go !", 0}, {q, "!go\tx", "go !\tx", 0}, {q, "!12", "", api.ErrNone}, {q, "x!5y", "xgo !y", 0},

@@ -23,7 +23,7 @@ func TestParse(t *testing.T) {
 		err  api.Errno
 	}{
 		{"", nil, 0, 0}, {"bytes 61\ntick\nsize 3 80\n", []api.Event{byteOf('a'), tick, sizeOf(3, 80)}, 0, 0}, {"tick", []api.Event{tick}, 0, 0}, {"\n\n# x\n#\ntick\n", []api.Event{tick}, 0, 0}, {"bytes 00ff1b", []api.Event{byteOf(0), byteOf(255), byteOf(27)}, 0, 0}, {"size 0 9999", []api.Event{sizeOf(0, 9999)}, 0, 0},
-		{"tick\r\n", nil, 1, api.ErrForm}, {"tick\n tick\n", nil, 2, api.ErrForm}, {"tick ", nil, 1, api.ErrForm}, {"\nbytes \n", nil, 2, api.ErrForm}, {"bytes", nil, 1, api.ErrForm}, {"bytes 6", nil, 1, api.ErrForm}, {"bytes 616", nil, 1, api.ErrForm}, {"bytes 6A", nil, 1, api.ErrForm}, {"bytes 61 62", nil, 1, api.ErrForm}, {"bytes 6g", nil, 1, api.ErrForm}, {"bytes  61", nil, 1, api.ErrForm},
+		{"tick\r\n", nil, 1, api.ErrForm}, {"tick\n tick\n", nil, 2, api.ErrForm}, {"tick ", nil, 1, api.ErrForm}, {"\nbytes \n", nil, 2, api.ErrForm}, {"bytes", nil, 1, api.ErrForm}, {"bytes 6", nil, 1, api.ErrForm}, {"bytes 616", nil, 1, api.ErrForm}, {"bytes 6A", nil, 1, api.ErrForm}, {"bytes 61 62", nil, 1, api.ErrForm}, {"bytes 6g", nil, 1, api.ErrForm}, {"bytes g6", nil, 1, api.ErrForm}, {"bytes :0", nil, 1, api.ErrForm}, {"bytes  61", nil, 1, api.ErrForm},
 		{"size", nil, 1, api.ErrForm}, {"size ", nil, 1, api.ErrForm}, {"size 3", nil, 1, api.ErrForm}, {"size 3 ", nil, 1, api.ErrForm}, {"size  3 4", nil, 1, api.ErrForm}, {"size 3  4", nil, 1, api.ErrForm}, {"size 03 4", nil, 1, api.ErrForm}, {"size 3 04", nil, 1, api.ErrForm}, {"size 00 4", nil, 1, api.ErrForm}, {"size 10000 4", nil, 1, api.ErrForm}, {"size 3 4 5", nil, 1, api.ErrForm}, {"size -1 4", nil, 1, api.ErrForm}, {"size +1 4", nil, 1, api.ErrForm}, {"size a 4", nil, 1, api.ErrForm},
 		{"Tick", nil, 1, api.ErrForm}, {"x", nil, 1, api.ErrForm}, {"tick\ntick\ntickx\nx", nil, 3, api.ErrForm}, {" #", nil, 1, api.ErrForm}, {"bytes " + strings.Repeat("61", PerLine+1), nil, 1, api.ErrForm}, {"bytes " + strings.Repeat("61", PerLine), slices.Repeat([]api.Event{byteOf('a')}, PerLine), 0, 0},
 	} {
@@ -36,6 +36,9 @@ func TestParse(t *testing.T) {
 
 // Promises 37.1 and 37.2: the limits.
 func TestLimits(t *testing.T) {
+	if MaxText != 1<<18 || MaxEvents != 65536 || PerLine != 32 || MostSize != 9999 {
+		t.Error("the limits")
+	}
 	if l, line, err := Parse("#" + strings.Repeat("x", MaxText)); l != nil || line != 0 || err != api.ErrFull {
 		t.Error(line, err)
 	}

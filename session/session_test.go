@@ -99,9 +99,19 @@ func TestFeed(t *testing.T) {
 	if out := s.Feed(api.Event{Kind: api.Size, Rows: 3, Cols: 4}); out != "> ab\x1b[2;1Hc[A" {
 		t.Errorf("the same size: %q", out)
 	}
-	// All that the keys of one byte do is told together.
+	// All that the keys of one byte do is told together: what rang first, or said Redraw, counts too.
+	s, _ = New(tables, bind.Map{}, 2, 40)
+	feed(s, "\x12\xc3")
+	if out := feed(s, "\b"); out != "\a" {
+		t.Errorf("%q", out)
+	}
+	s, _ = New(tables, bind.Map{}.With(bind.Stroke{Kind: api.KeyChar, Rune: 0xFFFD}, bind.Redraw), 2, 9)
+	feed(s, "a\xc3")
+	if out := feed(s, "\x02"); out != "\x1b[1;1H\x1b[2J> a\x1b[D" {
+		t.Errorf("%q", out)
+	}
 	feed(s, "\xc3")
-	if out := feed(s, "\x07"); !strings.HasSuffix(out, "\uFFFD\a") && !strings.Contains(out, "\uFFFD") {
+	if out := feed(s, "\x07"); !strings.HasPrefix(out, "\x1b[1;1H\x1b[2J") || !strings.HasSuffix(out, "\a") {
 		t.Errorf("%q", out)
 	}
 }

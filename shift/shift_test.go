@@ -96,7 +96,9 @@ func TestDo(t *testing.T) {
 	if now, ok := (Edit{}).Do(nil); !ok || len(now) != 0 {
 		t.Error(now, ok)
 	}
-	if e := Of(l, l, local.Window{From: 2, Was: 1, Is: 9}); e.At != 0 || e.Old != nil || e.New != nil {
-		t.Error("a window that cannot be")
+	for _, w := range []local.Window{{From: 2, Was: 1, Is: 9}, {From: -1, Was: 1, Is: 1}, {From: 2, Was: 1, Is: 2}, {From: 0, Was: 4, Is: 1}, {From: 2, Was: 2, Is: 1}, {From: 1, Was: 2, Is: 4}, {From: math.MinInt, Was: math.MaxInt, Is: math.MinInt}} {
+		if e := Of(l, l, w); e.At != 0 || e.Old != nil || e.New != nil {
+			t.Error("a window that cannot be", w)
+		}
 	}
 }

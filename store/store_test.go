@@ -52,6 +52,9 @@ func TestEntry(t *testing.T) {
 			t.Errorf("%x: the check is %d", x.l, sum)
 		}
 	}
+	if MaxBytes != 1<<20 {
+		t.Error("the limit")
+	}
 	if s, err := Append("x", []rune("a")); s != "x3a a\n" || err != api.OK {
 		t.Error(s, err)
 	}
@@ -80,7 +83,7 @@ func TestRead(t *testing.T) {
 		s, lines string
 		size     int
 	}{
-		{"", "", 0}, {"3a a\n", "a|", 5}, {"3a a\n3a a\nx", "a|a|", 10}, {"3a a", "", 0}, {"3b a\n3a a\n", "", 0}, {"3A a\n", "", 0}, {"3a  a\n", "", 0}, {"3aa\n", "", 0}, {"\n", "", 0}, {"07\n", "", 0}, {"07 \n", "|", 4}, {"d9 \\n\n", "\n|", 6}, {"07 \n\n07 \n", "|", 4},
+		{"", "", 0}, {"3a a\n", "a|", 5}, {"3a a\n3a a\nx", "a|a|", 10}, {"3a a", "", 0}, {"3b a\n3a a\n", "", 0}, {"3A a\n", "", 0}, {"3a  a\n", "", 0}, {"3aa\n", "", 0}, {"3a-a\n", "", 0}, {"\n", "", 0}, {"07\n", "", 0}, {"07 \n", "|", 4}, {"d9 \\n\n", "\n|", 6}, {"07 \n\n07 \n", "|", 4},
 		{entry("\\x"), "", 0}, {entry("\\"), "", 0}, {entry("a\\\\\\"), "", 0}, {entry("\xff"), "", 0}, {entry("\xc3"), "", 0}, {entry("\xed\xa0\x80"), "", 0}, {entry("\uFFFD"), "\uFFFD|", 7}, {entry("a\\\\n\\n"), "a\\n\n|", 10}, {entry("\r\x00"), "\r\x00|", 6},
 	} {
 		if l, size := Read(x.s); tell(l) != x.lines || size != x.size {

@@ -69,7 +69,7 @@ func check(t *testing.T, tables *ucd.Tables, x *Text, l []rune) {
 		t.Fatalf("%x: %v", l, x.Starts())
 	}
 	at := len(l) / 2
-	if x.Word(at, 3) != word.Forward(tables, l, at) || x.Word(at, -3) != word.Back(tables, l, at) || x.Word(at, 0) != x.Floor(at) || !slices.Equal(x.Part(at-2, at+2), l[max(at-2, 0):min(at+2, len(l))]) {
+	if x.Word(at, 3) != word.Forward(tables, l, at) || x.Word(at, 1) != x.Word(at, 3) || x.Word(at, -1) != x.Word(at, -3) || x.Word(at, -3) != word.Back(tables, l, at) || x.Word(at, 0) != x.Floor(at) || !slices.Equal(x.Part(at-2, at+2), l[max(at-2, 0):min(at+2, len(l))]) {
 		t.Fatalf("%x at %d", l, at)
 	}
 }

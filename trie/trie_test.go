@@ -48,6 +48,9 @@ func TestNil(t *testing.T) {
 
 // Promise 3.3.
 func TestBlocks(t *testing.T) {
+	if Wide != 128 {
+		t.Error("how wide blocks are")
+	}
 	for _, x := range []struct {
 		size, blocks int
 		l            []Piece[int]

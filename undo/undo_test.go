@@ -79,6 +79,13 @@ func TestEdges(t *testing.T) {
 	if l, ok := (Group{}).Undo([]rune("q")); string(l) != "q" || !ok {
 		t.Error(string(l), ok)
 	}
+	own := []rune("q")
+	a, _ := Group{}.Undo(own)
+	b, _, _ := Stack{}.All(own, 0)
+	a[0], b[0] = 'x', 'y'
+	if own[0] != 'q' {
+		t.Error("an answer shares memory with the line")
+	}
 	g.Edits[0].At = 9
 	if again, _ := s.Last(); again.Edits[0].At != 1 {
 		t.Error("a group shares memory with the stack")

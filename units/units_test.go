@@ -15,7 +15,7 @@ import (
 	"typebar/utf"
 )
 
-var some = []rune{'a', 'b', ' ', 0xE9, 0x301, 0x20AC, 0x4E00, 0x1F600, 0x1F1E6, 0x1F1E7, 0x600, 1, 0xD, 0xA, 0x9F, 0xD800, -1, 0x110000, math.MaxInt32}
+var some = []rune{'a', 'b', ' ', 0xE9, 0x301, 0x20AC, 0x4E00, 0xFFFF, 0x10000, 0x1F600, 0x1F1E6, 0x1F1E7, 0x600, 1, 0xD, 0xA, 0x9F, 0xD800, -1, 0x110000, math.MaxInt32}
 
 // places tells all places of a text, each counted by itself.
 func places(x *ucd.Tables, l []rune) []Pos {
@@ -119,7 +119,7 @@ func TestTabs(t *testing.T) {
 		stop int
 		out  string
 	}{
-		{"", 8, ""}, {"\t", 8, "        "}, {"a\tb", 8, "a       b"}, {"abcd\tx", 4, "abcd    x"}, {"abc\tx", 4, "abc x"}, {"\u4E00\tx", 4, "\u4E00  x"}, {"e\u0301\tx", 4, "e\u0301   x"}, {"ab\n\tx", 4, "ab\n    x"}, {"ab\r\n\tx", 4, "ab\r\n    x"}, {"ab\r\tx", 4, "ab\r    x"}, {"\x01\tx", 4, "\x01  x"}, {"a\t\tb", 2, "a   b"}, {"a\tb", 1, "a b"}, {"\t\u0301", 2, "  \u0301"}, {"a\v\tb", 4, "a\v b"}, {"\u0301\t", 3, "\u0301  "},
+		{"", 8, ""}, {"\t", 8, "        "}, {"a\tb", 8, "a       b"}, {"abcd\tx", 4, "abcd    x"}, {"abc\tx", 4, "abc x"}, {"\u4E00\tx", 4, "\u4E00  x"}, {"e\u0301\tx", 4, "e\u0301   x"}, {"ab\n\tx", 4, "ab\n    x"}, {"a\n\tx", 4, "a\n    x"}, {"a\r\tx", 4, "a\r    x"}, {"ab\r\n\tx", 4, "ab\r\n    x"}, {"ab\r\tx", 4, "ab\r    x"}, {"\x01\tx", 4, "\x01  x"}, {"a\t\tb", 2, "a   b"}, {"a\tb", 1, "a b"}, {"\t\u0301", 2, "  \u0301"}, {"a\v\tb", 4, "a\v b"}, {"\u0301\t", 3, "\u0301  "},
 	} {
 		if l, err := Tabs(x, []rune(want.s), want.stop); string(l) != want.out || err != api.OK {
 			t.Errorf("%q by %d: %q %d", want.s, want.stop, string(l), err)

@@ -114,7 +114,7 @@ func TestSplit(t *testing.T) {
 		{"", nil, 0, true}, {" \t ", nil, 0, true}, {"ab c", []Token{token(0, 2, "ab"), token(3, 4, "c")}, 0, true}, {"\ta\tb ", []Token{token(1, 2, "a"), token(3, 4, "b")}, 0, true},
 		{`a\ b`, []Token{token(0, 4, "a b")}, 0, true}, {`\\ \'`, []Token{token(0, 2, `\`), token(3, 5, "'")}, 0, true}, {`'a b'c "d e"`, []Token{token(0, 6, "a bc"), token(7, 12, "d e")}, 0, true},
 		{`'a\'`, []Token{token(0, 4, `a\`)}, 0, true}, {`"a\"b\\c\d'"`, []Token{token(0, 12, `a"b\c\d'`)}, 0, true}, {`''`, []Token{token(0, 2, "")}, 0, true}, {`""''`, []Token{token(0, 4, "")}, 0, true},
-		{`a b'c`, nil, 2, false}, {`a "b\"`, nil, 2, false}, {`a b\`, nil, 2, false}, {`'`, nil, 0, false}, {`x"\`, nil, 0, false}, {"a\nb", []Token{token(0, 3, "a\nb")}, 0, true}, {`'a' 'b`, nil, 4, false}, {`"a\`, nil, 0, false},
+		{`a b'c`, nil, 2, false}, {`a "b\"`, nil, 2, false}, {`a b\`, nil, 2, false}, {`'`, nil, 0, false}, {`x"\`, nil, 0, false}, {`"\\"`, []Token{token(0, 4, `\`)}, 0, true}, {"a\nb", []Token{token(0, 3, "a\nb")}, 0, true}, {`'a' 'b`, nil, 4, false}, {`"a\`, nil, 0, false},
 	} {
 		l, at, ok := Split([]rune(x.s))
 		same := slices.EqualFunc(l, x.l, func(a, b Token) bool { return a.From == b.From && a.To == b.To && slices.Equal(a.Text, b.Text) })
@@ -126,7 +126,7 @@ func TestSplit(t *testing.T) {
 
 // Promises 12.3 and 12.4.
 func TestQuote(t *testing.T) {
-	for _, x := range []struct{ s, q string }{{"", "''"}, {"aZ09-_./", "aZ09-_./"}, {"a b", "'a b'"}, {"it's", `'it'\''s'`}, {"é", "'é'"}, {`\`, `'\'`}, {"'", `''\'''`}, {"a@b", "'a@b'"}} {
+	for _, x := range []struct{ s, q string }{{"", "''"}, {"azAZ09-_./", "azAZ09-_./"}, {"a`", "'a`'"}, {"a{", "'a{'"}, {"a[", "'a['"}, {"a:", "'a:'"}, {"a b", "'a b'"}, {"it's", `'it'\''s'`}, {"é", "'é'"}, {`\`, `'\'`}, {"'", `''\'''`}, {"a@b", "'a@b'"}} {
 		if q := string(Quote([]rune(x.s))); q != x.q {
 			t.Errorf("%q: %q", x.s, q)
 		}
